@@ -231,11 +231,25 @@ func TestWritten(t *testing.T) {
 	}
 }
 
-func TestMarks(t *testing.T) {
-	l := made(t, plain)
-	l[8] = 7 // a book in use is another's: things are planned still
-	if p := deed.Of(l, 0, on(1, "/a")); p.Err != api.OK || p.Node != 3 {
-		t.Errorf("with a mark: %+v", p)
+func TestNotFine(t *testing.T) {
+	for what, c := range map[string]struct {
+		at  int
+		v   uint64
+		err api.Errno // of what writes
+	}{
+		"a mark":       {8, 7, api.OK}, // a book in use is another's: things are planned still
+		"a phase":      {6, 7, api.OK},
+		"a first head": {0, 0, api.OK},
+		"bits":         {8 * 21, math.MaxUint64 - 1, api.EFORM}, // a block in use might be given out
+	} {
+		l := made(t, plain)
+		l[c.at] = c.v
+		if p := deed.Of(l, 0, on(1, "/a")); p.Err != c.err || c.err == api.OK && p.Node != 3 || c.err != api.OK && len(p.Done) != 0 {
+			t.Errorf("%s: %+v", what, p)
+		}
+		if p := deed.Of(l, 0, on(12, "/")); p.Err != api.OK || p.Node != 1 {
+			t.Errorf("%s: %+v", what, p)
+		}
 	}
 }
 
