@@ -7,10 +7,10 @@ import (
 	"lintel/book"
 	"lintel/check"
 	"lintel/cure"
+	"lintel/deed"
 	"lintel/disk"
 	"lintel/geom"
 	"lintel/image"
-	"lintel/pmem"
 	"lintel/redo"
 	"lintel/runs"
 	"lintel/span"
@@ -24,6 +24,8 @@ const (
 	doubleKind = 4
 	// sumWord is the head's last word.
 	sumWord = api.BlockWords - 1
+	// client is whose book is used.
+	client = 0
 )
 
 // heal writes what cure plans, so that behind a fall at any moment cure plans what is left of it, and nothing else.
@@ -42,40 +44,30 @@ func heal(d *disk.Disk) api.Errno {
 			rest = append(rest, s)
 		}
 	}
-	if err := putHeads(d.Mem, heads); err != api.OK {
+	if err := putHeads(d, heads); err != api.OK {
 		return err
 	}
 	return keepAll(d, ordered(words, rest))
 }
 
-// putHeads writes the heads. They are no book's to keep, so a first one that was none is written word by word,
-// its sum ahead of all: with that no other geometry fits, and till the last word comes the back one counts.
-func putHeads(m *pmem.Mem, l []redo.Write) api.Errno {
+// putHeads writes the heads word by word: they are no book's to keep. Of a first one that was none the sum
+// comes ahead of all: with that no other geometry fits, and till the last word comes the back one counts.
+func putHeads(d *disk.Disk, l []redo.Write) api.Errno {
 	sum := func(w redo.Write) bool { return w.At == sumWord }
 	if i := slices.IndexFunc(l, sum); i > 0 {
 		w := l[i]
 		l = slices.Insert(slices.Delete(l, i, i+1), 0, w)
 	}
-	return write(m, l)
-}
-
-// write writes words, and makes them sure.
-func write(m *pmem.Mem, l []redo.Write) api.Errno {
-	if len(l) == 0 {
-		return api.OK
-	}
-	var lines []int
-	for _, w := range l {
-		if err := m.Store(w.At, w.V); err != api.OK {
-			return err
-		}
-		lines = append(lines, w.At/api.BlockWords)
-	}
-	slices.Sort(lines)
-	if err := m.Flush(slices.Compact(lines)...); err != api.OK {
+	whole, err := span.Of(d.Mem, 0, d.Lines())
+	if err != api.OK {
 		return err
 	}
-	return m.Fence()
+	for _, w := range l {
+		if err := whole.Push(w.At, w.V); err != api.OK {
+			return err
+		}
+	}
+	return api.OK
 }
 
 // ordered tells the steps so that each leaves the others as they are: a name that stands twice is
@@ -119,36 +111,32 @@ func doubles(words []uint64) map[int]int {
 	return names
 }
 
-// keepAll does steps, as many at once as the first book has room for, each lot wholly or not at all.
+// keepAll does steps, as many at once as a book has room for, each lot wholly or not at all.
 func keepAll(d *disk.Disk, steps []cure.Step) api.Errno {
-	from, n := geom.Books(d.Geom, 0)
+	from, n := geom.Books(d.Geom, client)
 	s, err := span.Of(d.Mem, from, n)
 	if err != api.OK {
 		return err
 	}
-	b := book.New(s, 0)
-	num := uint64(1)
+	room := book.New(s, client).Room()
 	var lot []redo.Write
 	for i, s := range steps {
 		lot = append(lot, s.L...)
-		if i+1 < len(steps) && len(lot)+len(steps[i+1].L) <= b.Room() {
+		if i+1 < len(steps) && len(lot)+len(steps[i+1].L) <= room {
 			continue
 		}
-		if err := keep(b, redo.Rec{Num: num, L: lot}); err != api.OK {
+		if err := keep(d, deed.Plan{Done: lot}); err != api.OK {
 			return err
 		}
-		num, lot = num+1, nil
+		lot = nil
 	}
 	return api.OK
 }
 
-// keep does a lot of writes by way of a book.
-func keep(b book.Book, r redo.Rec) api.Errno {
-	if err := b.Keep(r); err != api.OK {
+// keep does a lot of writes by way of the book.
+func keep(d *disk.Disk, p deed.Plan) api.Errno {
+	if err := d.Keep(client, p); err != api.OK {
 		return err
 	}
-	if err := write(b.Mem, r.L); err != api.OK {
-		return err
-	}
-	return b.Clear()
+	return d.Done(client, p)
 }
