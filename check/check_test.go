@@ -248,6 +248,25 @@ func TestRows(t *testing.T) {
 	wants(t, "bits behind", func(l []uint64) { setBits(l, true, 64, 65, 200, 511) }, f(7, 2, 64, 0), f(7, 2, 65, 0), f(7, 2, 200, 0), f(7, 2, 511, 0))
 }
 
+func TestAllNodes(t *testing.T) {
+	// bits 17, nodes 18 to 81, lost 82 to 145, data 146 on: node 63 is a Dir with File 64.
+	l, _ := image.Make(geom.Geom{Blocks: 200, Nodes: 64, Clients: 1, Book: 16})
+	put(l, 18, node.Put(thing(2, 1, 1, run(146, 1))))
+	put(l, 80, node.Put(thing(2, 1, 1, run(147, 1))))
+	put(l, 81, node.Put(thing(1, 1, 0)))
+	setSlot(l, 146, 63, "d")
+	setSlot(l, 147, 64, "f")
+	put(l, 17, bits.Set(bits.Bits{L: l[8*17 : 8*18]}, true, 146, 147).L)
+	if got := check.Run(l); len(got) != 0 {
+		t.Errorf("64 nodes: %v", got)
+	}
+	setSlot(l, 144, 63, "#63")
+	setSlot(l, 145, 64, "#64")
+	if got, want := check.Run(l), []find{f(4, 6, 2, 62), f(6, 1, 64, 2)}; !slices.Equal(got, want) {
+		t.Errorf("64 nodes, two in Lost: %v", got)
+	}
+}
+
 func TestOrder(t *testing.T) {
 	wants(t, "much", func(l []uint64) {
 		l[6], l[8] = 1, 1

@@ -349,6 +349,21 @@ func TestLinks(t *testing.T) {
 	})
 }
 
+func TestAllNodes(t *testing.T) {
+	// bits 17, nodes 18 to 81, lost 82 to 145, data 146 on: node 63 is a Dir with File 64, and no name.
+	l, _ := image.Make(geom.Geom{Blocks: 200, Nodes: 64, Clients: 1, Book: 16})
+	put(l, 80, node.Put(thing(2, 1, 1, run(147, 1))))
+	put(l, 81, node.Put(thing(1, 5, 0)))
+	setSlot(l, 147, 64, "f")
+	if got := cure.Kept(l); !slices.Equal(got, []int{1, 2, 63, 64}) {
+		t.Errorf("Kept of 64 nodes: %v", got)
+	}
+	x, _ := image.Open(well(t, "64 nodes", l))
+	if s := x.Slots(2); s[62] != (slot.Slot{Node: 63, Name: "#63"}) || s[63] != (slot.Slot{}) {
+		t.Errorf("64 nodes: %v", s)
+	}
+}
+
 func TestMaxLinks(t *testing.T) {
 	g := geom.Geom{Blocks: 400, Nodes: 10, Clients: 1, Book: 16} // bits 17, nodes 18 to 27, lost 28 to 37, data 38 to 398
 	l, _ := image.Make(g)

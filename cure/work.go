@@ -86,14 +86,12 @@ func (w *work) slots() {
 func (w *work) adopt() {
 	s := w.seats()
 	for {
-		n, named := w.orphan(s)
+		n := w.orphan(s)
 		if n == 0 {
 			return
 		}
-		if named {
-			for _, x := range s.of(n) {
-				w.free(s, x)
-			}
+		for _, x := range s.of(n) {
+			w.free(s, x)
 		}
 		own := slot.Slot{Node: n, Name: "#" + strconv.Itoa(n)}
 		w.putSlot(api.Lost, n-1, own)
@@ -107,8 +105,8 @@ func (w *work) free(s *seats, x seat) {
 	s[x.dir][x.place] = slot.Slot{}
 }
 
-// orphan tells the next node that needs a name in Lost (0: none does), and whether it has a name that leads nowhere.
-func (w *work) orphan(s *seats) (n int, named bool) {
+// orphan tells the next node that needs a name in Lost, 0 of none: the least one without any name, else the least Dir.
+func (w *work) orphan(s *seats) int {
 	reached := s.reached()
 	dir := 0
 	for n := 1; n <= w.Nodes; n++ {
@@ -117,13 +115,13 @@ func (w *work) orphan(s *seats) (n int, named bool) {
 			continue
 		}
 		if len(s.of(n)) == 0 {
-			return n, false
+			return n
 		}
 		if dir == 0 && v.Type == api.Dir {
 			dir = n
 		}
 	}
-	return dir, dir != 0
+	return dir
 }
 
 func (w *work) links() {

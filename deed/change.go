@@ -81,6 +81,7 @@ func (c change) names(n int) api.Errno {
 		return api.OK
 	}
 	want := seated(c.Slots(n), p.Names)
+	// Slots are added only where none is left free: whatever stood in the new ones is written over below.
 	if err := c.grow(n, len(want)); err != api.OK {
 		return err
 	}
@@ -134,7 +135,7 @@ func (c change) grow(dir, slots int) api.Errno {
 	return c.move(dir, slots)
 }
 
-// move gives a Dir other blocks, for so many slots.
+// move gives a Dir other blocks, for so many slots; what stands in them is no slot of its yet.
 func (c change) move(dir, slots int) api.Errno {
 	p, err := pool.New(c.Geom, c.Bits())
 	if err != api.OK {
@@ -144,19 +145,9 @@ func (c change) move(dir, slots int) api.Errno {
 	if err != api.OK {
 		return err
 	}
-	seats := make([]slot.Slot, slots)
-	copy(seats, c.Slots(dir))
 	v, _ := c.Node(dir)
 	v.Runs, v.Size = l, slots
-	if err := c.SetNode(dir, v); err != api.OK {
-		return err
-	}
-	for place, s := range seats {
-		if err := c.SetSlot(dir, place, s); err != api.OK {
-			return err
-		}
-	}
-	return api.OK
+	return c.SetNode(dir, v)
 }
 
 // links writes how many names a File or Link has.

@@ -166,6 +166,13 @@ func TestRefused(t *testing.T) {
 			t.Errorf("client %d: %+v", client, p)
 		}
 	}
+	for _, client := range []int{-1, 1} {
+		for _, o := range []tree.Op{on(13, "/"), on(4, "/none"), on(99, "/")} { // what would write nothing, too
+			if p := deed.Of(l, client, o); !same(p.Result, tree.Result{Err: api.EARG}) {
+				t.Errorf("client %d: %+v", client, p)
+			}
+		}
+	}
 	two := made(t, geom.Geom{Blocks: 100, Nodes: 10, Clients: 2, Book: 16})
 	if p := deed.Of(two, 1, on(1, "/a")); p.Err != api.OK {
 		t.Errorf("client 1 of two: %+v", p)
@@ -280,6 +287,39 @@ func TestManySlots(t *testing.T) {
 	l = step(t, l, 0, tree.Op{Kind: 3, A: "/d/f", B: "/d/again"})
 	if x, _ = image.Open(l); len(x.Slots(3)) != 61 {
 		t.Error("a free slot is not used")
+	}
+}
+
+func TestFreePlaces(t *testing.T) {
+	l := made(t, plain)
+	for _, name := range []string{"/a", "/b", "/c"} {
+		l = step(t, l, 0, on(2, name))
+	}
+	for place, name := range []string{"/a", "/b", "/c"} {
+		l = step(t, l, 0, on(4, name))
+		l = step(t, l, 0, on(2, name+"x"))
+		if x, _ := image.Open(l); len(x.Slots(1)) != 3 || x.Slots(1)[place].Name != name[1:]+"x" {
+			t.Errorf("a free place %d is not used: %v", place, x.Slots(1))
+		}
+		l = step(t, l, 0, tree.Op{Kind: 6, A: name + "x", B: name})
+	}
+	if x, _ := image.Open(l); len(x.Slots(1)) != 3 {
+		t.Errorf("a new name of an old one takes a new slot: %v", x.Slots(1))
+	}
+}
+
+func TestAllNodes(t *testing.T) {
+	l := made(t, geom.Geom{Blocks: 300, Nodes: 64, Clients: 1, Book: 16})
+	way := ""
+	for range 31 {
+		l = step(t, l, 0, on(2, way+"/f"))
+		l = step(t, l, 0, on(1, way+"/d"))
+		way += "/d"
+	}
+	l = step(t, l, 0, on(2, way+"/f"))
+	l = step(t, l, 0, put(way[2:]+"/f", 0, "x"))
+	if p := deed.Of(l, 0, on(12, way)); p.Node != 64 {
+		t.Errorf("the last node: %+v", p)
 	}
 }
 

@@ -309,6 +309,12 @@ func TestRecoverSpoilt(t *testing.T) {
 	if got, err := disk.Recover(l); err != api.OK || !slices.Equal(got, want) {
 		t.Errorf("another mark: %v", err)
 	}
+	two, _ := image.Make(geom.Geom{Blocks: 100, Nodes: 10, Clients: 3, Book: 16})
+	want = slices.Clone(two)
+	two[8], two[8*17], two[8*33] = 5, 6, 7
+	if got, err := disk.Recover(two); err != api.OK || !slices.Equal(got, want) {
+		t.Errorf("three marks alone: %v", err)
+	}
 	l[0] = 0 // the back head counts
 	record(l, 1, redo.Rec{Num: 6, L: []redo.Write{{At: 8 * 50, V: 1}}})
 	want = slices.Clone(l)

@@ -267,8 +267,10 @@ func TestFillLink(t *testing.T) {
 	if v, _ := e.Node(4); v.Type != 3 || bits.Has(e.Bits(), 57) {
 		t.Errorf("Fill of a Link: %v", v)
 	}
-	if err := e.Fill(0, 4, bytes.Repeat([]byte("x"), 400)); err != api.OK {
-		t.Errorf("Fill of 400: %v", err)
+	for _, n := range []int{400, 1} {
+		if err := e.Fill(0, 4, bytes.Repeat([]byte("x"), n)); err != api.OK || len(e.Content(4)) != n {
+			t.Errorf("Fill of %d: %v", n, err)
+		}
 	}
 	well(t, "Fill of a Link", l, e)
 }
@@ -372,19 +374,21 @@ func TestGrowRefused(t *testing.T) {
 		client, dir, slots int
 		want               api.Errno
 	}{
-		"client -1":      {-1, 5, 3, api.EARG},
-		"client 2":       {2, 5, 3, api.EARG},
-		"a File":         {0, 3, 9, api.EARG},
-		"a free one":     {0, 9, 3, api.EARG},
-		"none":           {0, 11, 3, api.EARG},
-		"Lost":           {0, 2, 11, api.EARG},
-		"Lost as it is":  {0, 2, 10, api.EARG},
-		"fewer":          {0, 5, 1, api.EARG},
-		"below 0":        {0, 5, -1, api.EARG},
-		"behind MaxFile": {0, 5, 4097, api.EARG},
-		"the greatest":   {0, 5, math.MaxInt, api.EARG},
-		"up to MaxFile":  {0, 5, 4096, api.ENOSPC},
-		"one too many":   {0, 5, 22, api.ENOSPC},
+		"client -1":          {-1, 5, 3, api.EARG},
+		"client 2":           {2, 5, 3, api.EARG},
+		"client -1, no more": {-1, 5, 2, api.EARG},
+		"client 2, no more":  {2, 5, 2, api.EARG},
+		"a File":             {0, 3, 9, api.EARG},
+		"a free one":         {0, 9, 3, api.EARG},
+		"none":               {0, 11, 3, api.EARG},
+		"Lost":               {0, 2, 11, api.EARG},
+		"Lost as it is":      {0, 2, 10, api.EARG},
+		"fewer":              {0, 5, 1, api.EARG},
+		"below 0":            {0, 5, -1, api.EARG},
+		"behind MaxFile":     {0, 5, 4097, api.EARG},
+		"the greatest":       {0, 5, math.MaxInt, api.EARG},
+		"up to MaxFile":      {0, 5, 4096, api.ENOSPC},
+		"one too many":       {0, 5, 22, api.ENOSPC},
 	} {
 		refused(t, "Grow: "+what, e, c.want, func() api.Errno { return e.Grow(c.client, c.dir, c.slots) })
 	}

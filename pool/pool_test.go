@@ -125,6 +125,20 @@ func TestTakeAll(t *testing.T) {
 	}
 }
 
+func TestOwnGroup(t *testing.T) {
+	for client, from := range []int{70, 89, 108} {
+		p := open(t, three, bits.New(128))
+		for i := range 19 {
+			if l, err := p.Take(client, 1, 1); err != api.OK || !slices.Equal(l, list(from+i, 1)) {
+				t.Errorf("Take of client %d: %v, %v", client, l, err)
+			}
+		}
+		if l, err := p.Take(client, 1, 1); err != api.OK || len(l) != 1 { // its group is full
+			t.Errorf("Take of client %d elsewhere: %v, %v", client, l, err)
+		}
+	}
+}
+
 // least tells in how few runs n free places can be had, by trying all sets of gaps; 0: not at all.
 func least(gaps []int, n int) int {
 	best := 0
@@ -213,8 +227,10 @@ func TestGive(t *testing.T) {
 	if err := p.Give(list(data, 2, data+20, 1, data+6, 2)...); err != api.OK || p.Free() != 8 || !slices.Equal(p.Bits().L, taken(3, 4, 5, 0, 1, 20, 6, 7).L) {
 		t.Errorf("Give: %v, %d free", err, p.Free())
 	}
-	if err := p.Give(); err != api.OK || p.Free() != 8 {
-		t.Errorf("Give of none: %v", err)
+	for _, l := range [][]node.Run{nil, list(data, 0), list(-5, 0, data, -1, math.MaxInt, math.MinInt)} { // no block at all
+		if err := p.Give(l...); err != api.OK || p.Free() != 8 {
+			t.Errorf("Give of none, %v: %v", l, err)
+		}
 	}
 	if l, err := p.Take(0, 5, 1); err != api.OK || !slices.Equal(l, list(data+3, 5)) {
 		t.Errorf("Take of what was given back: %v, %v", l, err)

@@ -114,6 +114,23 @@ func TestPush(t *testing.T) {
 	}
 }
 
+func TestPushWhole(t *testing.T) {
+	for _, c := range [][2]int{{0, 24}, {7, 2}, {15, 9}, {8, 8}, {7, 1}} {
+		m := five(t)
+		s := of(t, m, 1, 3)
+		l := make([]uint64, c[1])
+		if err := s.Push(c[0], l...); err != api.OK {
+			t.Errorf("Push(%d) of %d: %v", c[0], c[1], err)
+		}
+		m.Crash()
+		for at, v := range m.Words()[8:32] {
+			if in := at >= c[0] && at < c[0]+c[1]; in != (v == 0) {
+				t.Errorf("Push(%d) of %d: word %d is %d", c[0], c[1], at, v)
+			}
+		}
+	}
+}
+
 func TestPushFalls(t *testing.T) {
 	for calls, want := range map[int][2]uint64{1: {108, 109}, 2: {1, 109}, 3: {1, 2}, 4: {1, 2}, 5: {1, 2}} {
 		m := five(t)
