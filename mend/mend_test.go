@@ -235,6 +235,7 @@ var damages = map[string]func(l []uint64){
 	},
 	"bits":           func(l []uint64) { l[8*33], l[8*33+1], l[8*34-1] = 5, 6, 7 },
 	"a doubled name": doubled,
+	"a doubled Lost": lostDoubled,
 	"a circle":       circle,
 	"too many names": names,
 	"much of all": func(l []uint64) {
@@ -256,6 +257,21 @@ func doubled(l []uint64) {
 	for i := range 20 {
 		setSlot(l, 100+i, 12, "n"+strconv.Itoa(i)) // node 12 is none
 		setSlot(l, 80+i, 5, "n"+strconv.Itoa(i))
+	}
+}
+
+// lostDoubled spoils Lost, and makes slots in it with the names of others behind them: those go, and with them the second ones, that would be well without the first.
+func lostDoubled(l []uint64) {
+	l[8*35]++
+	for n := 5; n <= 7; n++ {
+		put(l, 33+n, slices.Repeat([]uint64{7}, 8)) // more words, so that one record does not hold all
+	}
+	put(l, 34, node.Put(thing(2, 1, 8, run(100, 8))))
+	for n := 8; n <= 12; n++ {
+		put(l, 33+n, node.Put(thing(1, 1, 0)))
+		setSlot(l, 92+n, n, "x"+strconv.Itoa(n)) // reached by Root, too: Lost does not get it back
+		setSlot(l, 46+n-8, n, "#"+strconv.Itoa(n))
+		setSlot(l, 45+n, n, "#"+strconv.Itoa(n))
 	}
 }
 
