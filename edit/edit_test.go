@@ -197,6 +197,24 @@ func TestSetNodeOdd(t *testing.T) {
 	}
 }
 
+func TestNodeNotGood(t *testing.T) {
+	l := some(t)
+	put(l, 36, node.Put(thing(1, 65, run(54, 1))))
+	put(l, 37, node.Put(thing(3, 0, run(57, 1))))
+	put(l, 38, node.Put(thing(2, 3, run(58, 2))))
+	e := open(t, l)
+	for n := 3; n <= 5; n++ {
+		refused(t, "Fill of what is not Good", e, api.EARG, func() api.Errno { return e.Fill(0, n, []byte("a")) })
+		refused(t, "Grow of what is not Good", e, api.EARG, func() api.Errno { return e.Grow(0, n, 9) })
+		refused(t, "SetSlot of what is not Good", e, api.EARG, func() api.Errno { return e.SetSlot(n, 0, slot.Slot{}) })
+	}
+	for n := 3; n <= 5; n++ { // it has no Runs that count
+		if err := e.Clear(n); err != api.OK || !slices.Equal(taken(e), []int{54, 56, 57, 58, 59, 60}) {
+			t.Errorf("Clear of what is not Good: %v, %v", err, taken(e))
+		}
+	}
+}
+
 func TestSetSlot(t *testing.T) {
 	l := some(t)
 	e := open(t, l)

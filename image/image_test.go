@@ -141,8 +141,7 @@ func TestBlock(t *testing.T) {
 
 func TestNode(t *testing.T) {
 	l := some(t)
-	put(l, 27, node.Put(file(1, 65, run(52, 1)))) // told, but not Good
-	put(l, 28, []uint64{1})                       // told by nothing
+	put(l, 28, []uint64{1}) // told by nothing
 	x := open(t, l)
 	if v, ok := x.Node(3); !ok || v.Type != 1 || v.Links != 2 || v.Size != 100 || !slices.Equal(v.Runs, []node.Run{{From: 45, Len: 1}, {From: 43, Len: 1}}) {
 		t.Errorf("Node(3): %v", v)
@@ -150,12 +149,38 @@ func TestNode(t *testing.T) {
 	if v, ok := x.Node(10); !ok || v.Type != 0 || v.Links != 0 || v.Size != 0 || len(v.Runs) != 0 {
 		t.Errorf("Node(10): %v, %v", v, ok)
 	}
-	if v, ok := x.Node(6); ok || v.Size != 65 || v.Type != 1 {
-		t.Errorf("Node of what is not Good: %v, %v", v, ok)
-	}
 	for _, n := range []int{7, 0, -1, 11, math.MaxInt, math.MinInt} {
-		if v, ok := x.Node(n); ok || v.Type != 0 || v.Links != 0 || v.Size != 0 || len(v.Runs) != 0 {
+		if v, ok := x.Node(n); !none(v, ok) {
 			t.Errorf("Node(%d): %v, %v", n, v, ok)
+		}
+	}
+}
+
+// none: there is no node, and nothing is told of it.
+func none(v node.Node, ok bool) bool {
+	return !ok && v.Type == 0 && v.Links == 0 && v.Size == 0 && len(v.Runs) == 0
+}
+
+func TestNodeNotGood(t *testing.T) {
+	for i, v := range []node.Node{
+		file(1, 65, run(52, 1)), file(1, 64), file(1, 64, run(41, 1)), file(1, 64, run(63, 1)), file(1, 128, run(52, 1), run(52, 1)), file(1, 4097, run(42, 21)),
+		file(3, 0), file(3, 401, run(52, 7)), file(2, 3), file(2, 11, run(32, 10), run(52, 1)),
+		{Type: 1}, {Type: 2}, {Type: 1, Links: api.MaxLinks + 1},
+	} {
+		l := some(t)
+		put(l, 27, node.Put(v))
+		if _, ok := node.Get(l[8*27 : 8*28]...); !ok {
+			t.Errorf("number %d: node's Get tells none", i)
+		}
+		x := open(t, l)
+		if got, ok := x.Node(6); !none(got, ok) {
+			t.Errorf("number %d: %v, %v", i, got, ok)
+		}
+		if len(x.Slots(6)) != 0 || len(x.Content(6)) != 0 {
+			t.Errorf("number %d: slots %v, content %v", i, x.Slots(6), x.Content(6))
+		}
+		if tr, err := x.Tree(); tr != nil || err != api.EFORM {
+			t.Errorf("number %d: Tree: %v", i, err)
 		}
 	}
 }
