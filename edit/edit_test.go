@@ -3,7 +3,9 @@ package edit_test
 import (
 	"bytes"
 	"math"
+	mbits "math/bits"
 	"slices"
+	"strconv"
 	"strings"
 	"testing"
 
@@ -424,6 +426,109 @@ func TestGrowRefused(t *testing.T) {
 	refused(t, "Grow of the Lost area", e, api.ENOSPC, func() api.Errno { return e.Grow(0, 10, 11) })
 	if err := e.Grow(0, 10, 10); err != api.OK {
 		t.Errorf("Grow of the Lost area by none: %v", err)
+	}
+}
+
+// In small: bits 21, nodes 22 to 37, lost 38 to 53, data 54 to 62.
+var small = geom.Geom{Blocks: 64, Nodes: 16, Clients: 1, Book: 20}
+
+// room tells whether any choice of so many free blocks makes at most four runs, with those ahead of them: by trying all.
+func room(old []node.Run, free, count int) bool {
+	last := old[len(old)-1]
+	for set := range 1 << 9 {
+		if set&^free != 0 || mbits.OnesCount(uint(set)) != count {
+			continue
+		}
+		begins := set &^ (set << 1)
+		if at := last.From + last.Len - 54; at < 9 {
+			begins &^= 1 << at // it goes on where the last one ends
+		}
+		if len(runs.Merge(old))+mbits.OnesCount(uint(begins)) <= 4 {
+			return true
+		}
+	}
+	return false
+}
+
+// smallDir is an image with a Dir 5 of these blocks, in which the data of free are free, as its bits say.
+func smallDir(t *testing.T, old []node.Run, free int) []uint64 {
+	t.Helper()
+	l, err := image.Make(small)
+	if err != api.OK {
+		t.Fatal(err)
+	}
+	for at := 54; at < 63; at++ {
+		put(l, at, []uint64{9, 9, 9, 9, 9, 9, 9, 9})
+		if free>>(at-54)&1 == 0 {
+			l[8*21] |= 1 << at
+		}
+	}
+	put(l, 26, node.Put(thing(2, node.Blocks(thing(2, 0, old...)), old...)))
+	for i := range runs.Total(old) {
+		at, _ := runs.At(old, i)
+		put(l, at, slot.Put(slot.Slot{Node: 6, Name: strconv.Itoa(i)}))
+	}
+	return l
+}
+
+func TestGrowWhereverThereIsRoom(t *testing.T) {
+	for _, old := range [][]node.Run{
+		{run(54, 1), run(56, 1), run(58, 1), run(60, 1)}, {run(60, 1), run(58, 1), run(56, 1), run(54, 1)}, {run(54, 1), run(55, 1), run(57, 1), run(60, 1)}, {run(57, 1), run(58, 1), run(59, 1), run(60, 1)},
+		{run(54, 1), run(57, 1), run(60, 1)}, {run(62, 1), run(58, 1), run(55, 1)}, {run(55, 1), run(57, 1)}, {run(58, 2)}, {run(61, 2)}, {run(54, 1), run(62, 1)}, {run(62, 1), run(54, 1)},
+	} {
+		for free := range 1 << 9 { // also where its own blocks look free
+			for more := 1; more <= mbits.OnesCount(uint(free))+1; more++ {
+				growSmall(t, old, free, more)
+			}
+		}
+	}
+}
+
+// growSmall: a Dir of these blocks grows just if there is room, and its old slots keep their places.
+func growSmall(t *testing.T, old []node.Run, free, more int) {
+	t.Helper()
+	e := open(t, smallDir(t, old, free))
+	had := runs.Total(old)
+	for _, at := range blocks(old) {
+		free &^= 1 << (at - 54)
+	}
+	if !room(old, free, more) {
+		refused(t, "Grow without room", e, api.ENOSPC, func() api.Errno { return e.Grow(0, 5, had+more) })
+		return
+	}
+	if err := e.Grow(0, 5, had+more); err != api.OK {
+		t.Fatalf("Grow of %v by %d, free %b: %v", old, more, free, err)
+	}
+	v, ok := e.Node(5)
+	if !ok || v.Size != had+more || len(v.Runs) > api.MaxRuns {
+		t.Fatalf("Grow of %v by %d, free %b: %v", old, more, free, v)
+	}
+	for i, s := range e.Slots(5) {
+		now, _ := runs.At(v.Runs, i)
+		was, kept := runs.At(old, i)
+		want := slot.Slot{}
+		if kept {
+			want = slot.Slot{Node: 6, Name: strconv.Itoa(i)}
+		}
+		if s != want || kept && now != was || !kept && (free>>(now-54)&1 == 0 || e.Words[8*now] != 0) || !bits.Has(e.Bits(), now) {
+			t.Fatalf("Grow of %v by %d, free %b: place %d is %v at %d", old, more, free, i, s, now)
+		}
+	}
+	if got := 9 - mbits.OnesCount(uint(e.Words[8*21]>>54&0x1ff)); got != mbits.OnesCount(uint(free))-more {
+		t.Fatalf("Grow of %v by %d, free %b: %d are free", old, more, free, got)
+	}
+}
+
+func TestGrowOfNoRuns(t *testing.T) {
+	for free, want := range map[int]api.Errno{0b111000000: api.OK, 0b101010000: api.OK, 0b000000011: api.ENOSPC, 0: api.ENOSPC} {
+		l := smallDir(t, nil, free)
+		e := open(t, l)
+		if err := e.Grow(0, 5, 3); err != want {
+			t.Errorf("Grow of no runs, free %b: %v", free, err)
+		}
+		if v, ok := e.Node(5); want == api.OK && (!ok || v.Size != 3) {
+			t.Errorf("Grow of no runs, free %b: %v", free, v)
+		}
 	}
 }
 
